@@ -13,6 +13,9 @@ var allDirections = []int{impl.North, impl.East, impl.South, impl.West}
 // extremeInts holds numbers with which a sum or a product of the program could overflow.
 var extremeInts = []int{math.MinInt, math.MinInt + 1, math.MinInt32, -1 << 32, 1 << 32, 1<<32 + 1, math.MaxInt32, 1 << 62, math.MaxInt - 1, math.MaxInt}
 
+// gapCounts has the number of gaps of each grid, one row for each height, one number for each width.
+var gapCounts = [4][4]int{{0, 1, 2, 3}, {1, 4, 7, 10}, {2, 7, 12, 17}, {3, 10, 17, 24}}
+
 // allGrids holds the 16 valid grids.
 func allGrids() []impl.Grid {
 	var list []impl.Grid
@@ -104,14 +107,13 @@ func TestGridOkLimits(t *testing.T) {
 }
 
 func TestCountCellsAndGaps(t *testing.T) {
-	// One row for each height, one number for each width.
+	// Laid out like gapCounts.
 	cells := [4][4]int{{1, 2, 3, 4}, {2, 4, 6, 8}, {3, 6, 9, 12}, {4, 8, 12, 16}}
-	gaps := [4][4]int{{0, 1, 2, 3}, {1, 4, 7, 10}, {2, 7, 12, 17}, {3, 10, 17, 24}}
 	for _, g := range allGrids() {
 		if got, want := impl.CountCells(g), cells[g.High-1][g.Wide-1]; got != want {
 			t.Errorf("CountCells(%v) = %d, want %d", g, got, want)
 		}
-		if got, want := impl.CountGaps(g), gaps[g.High-1][g.Wide-1]; got != want {
+		if got, want := impl.CountGaps(g), gapCounts[g.High-1][g.Wide-1]; got != want {
 			t.Errorf("CountGaps(%v) = %d, want %d", g, got, want)
 		}
 	}
